@@ -356,7 +356,7 @@ func TestParts(t *testing.T) { // C2
 	}
 	for _, s := range []string{
 		// More than may be in one, when that comes, whatever is behind.
-		"[" + ones(301), "[" + ones(300) + "1", "[" + ones(301) + ")", "[" + ones(500) + "]", "<<" + fields(301), "<<" + fields(301) + ">>", "[" + ones(300) + "(", "<<" + fields(300) + "/x",
+		"[" + ones(301), "[" + ones(300) + "1", "[" + ones(301) + ")", "[" + ones(500) + "]", "<<" + fields(301), "<<" + fields(301) + ">>",
 		// Check's error.
 		"[" + ones(300) + "]", "<<" + fields(300) + ">>", "[" + ones(100) + "[" + ones(199) + "]]", "<</a[" + ones(150) + "]/b[" + ones(148) + "]>>",
 	} {
@@ -368,8 +368,40 @@ func TestParts(t *testing.T) { // C2
 	fails(t, "["+inLists(ones(200), 1)+inLists(ones(200), 1)+")", 0, api.ErrText)
 	fails(t, "["+inLists(ones(200), 1)+inLists(ones(200), 1)+"<</a 1/a 1", 0, api.ErrShape)
 	fails(t, "<<"+fields(300), 0, api.ErrEnd)
+	fails(t, "[["+ones(300)+"]", 0, api.ErrEnd)
+	fails(t, "[["+ones(300)+"])", 0, api.ErrText)
+	fails(t, "[<<"+fields(300)+">>", 0, api.ErrEnd)
+	fails(t, "[<<"+fields(300)+">>)", 0, api.ErrText)
 	fails(t, "["+ones(299)+"x", 0, api.ErrText)
 	reads(t, "<</a["+ones(150)+"]/b["+ones(148)+"]>>", 4, list(times(150)...), 306)
+}
+
+// A list or dictionary that has as many parts as may be is not greater until one more of them has been read.
+func TestFullParts(t *testing.T) { // C2
+	full := "[" + strings.Repeat("1 ", api.MaxParts)
+	for behind, want := range map[string]error{
+		"": api.ErrEnd, " %]": api.ErrEnd, "(abc": api.ErrEnd, "<6": api.ErrEnd, "[": api.ErrEnd, "[1": api.ErrEnd, "<<": api.ErrEnd, "<</a": api.ErrEnd, "(" + strings.Repeat("x", 201): api.ErrEnd,
+		")": api.ErrText, ">": api.ErrText, ">>": api.ErrText, "{": api.ErrText, "%\n}": api.ErrText, "1x]": api.ErrText, "nul]": api.ErrText, "/]": api.ErrText, "/#zz]": api.ErrText, "<6g>]": api.ErrText, "[)": api.ErrText,
+		"<<1": api.ErrText, "<</a 1/a 2>>]": api.ErrShape, "1000001]": api.ErrBound, "[1000001": api.ErrBound,
+		"1": api.ErrMany, "1 ": api.ErrMany, "1]": api.ErrMany, "1 )": api.ErrMany, "1 x": api.ErrMany, "1 0 R": api.ErrMany, "()x": api.ErrMany, "/a(": api.ErrMany, "[]": api.ErrMany, "<<>>)": api.ErrMany, "null": api.ErrMany,
+		"(" + strings.Repeat("x", 201) + ")": api.ErrMany, strings.Repeat("[", 8): api.ErrMany,
+	} {
+		fails(t, full+behind, 0, want)
+		fails(t, "[x "+full+behind, 3, want)
+		fails(t, "<</a "+full+behind, 0, want)
+	}
+	full = "<<" + fields(api.MaxParts)
+	for behind, want := range map[string]error{
+		"": api.ErrEnd, " %>>": api.ErrEnd, "/x": api.ErrEnd, "/x ": api.ErrEnd, "/x(": api.ErrEnd, "/x[1": api.ErrEnd, "/n3": api.ErrEnd, "/n3 (": api.ErrEnd, "/x<<": api.ErrEnd,
+		")": api.ErrText, " 1": api.ErrText, "[": api.ErrText, ">": api.ErrText, "> >": api.ErrText, "]": api.ErrText, " x": api.ErrText, "(": api.ErrText, "/": api.ErrText, "/#zz 1>>": api.ErrText, "/x>>": api.ErrText, "/x)": api.ErrText,
+		"/x 1x>>": api.ErrText, "/x nul": api.ErrText, "/n3>>": api.ErrText, "/n3 1x": api.ErrText, "/x 1000001": api.ErrBound, "/n3 1000001": api.ErrBound,
+		"/n3 1>>": api.ErrShape, "/n3()": api.ErrShape, "/n10 1 )": api.ErrShape, "/#6e3 1": api.ErrShape, "/x<</a 1/a 1": api.ErrShape,
+		"/x 1": api.ErrMany, "/x 1>>": api.ErrMany, "/x 1 )": api.ErrMany, "/x()/n3 1": api.ErrMany, "/A[]>>": api.ErrMany, "/x(" + strings.Repeat("x", 201) + ")": api.ErrMany,
+	} {
+		fails(t, full+behind, 0, want)
+		fails(t, "[x "+full+behind, 3, want)
+		fails(t, "["+full+behind, 0, want)
+	}
 }
 
 // times: so many values 1.

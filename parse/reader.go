@@ -226,30 +226,30 @@ func (r *reader) list(deep int) (api.Value, error) {
 	v := api.Value{Kind: api.List}
 	r.at++
 	for {
-		if end, err := r.ends("]", len(v.L)); end || err != nil {
+		if end, err := r.ends("]"); end || err != nil {
 			return v, err
 		}
 		x, err := r.value(deep + 1)
 		if err != nil {
 			return api.Value{}, err
 		}
-		v.L = append(v.L, x)
+		// Just a value that was read makes the list greater: what is wrong in it is told ahead of too many.
+		if v.L = append(v.L, x); len(v.L) > api.MaxParts {
+			return api.Value{}, api.ErrMany
+		}
 	}
 }
 
-// ends: is this the end of a list or dictionary that has so many parts? Else one more comes: ErrMany, if that is too many.
-func (r *reader) ends(with string, parts int) (bool, error) {
+// ends: is this the end of a list or dictionary? If so, it is taken; ErrEnd: there is nothing more.
+func (r *reader) ends(with string) (bool, error) {
 	if err := r.skip(); err != nil {
 		return false, err
 	}
-	if r.ahead(with) {
-		r.at += len(with)
-		return true, nil
+	if !r.ahead(with) {
+		return false, nil
 	}
-	if parts == api.MaxParts {
-		return false, api.ErrMany
-	}
-	return false, nil
+	r.at += len(with)
+	return true, nil
 }
 
 // dict from '<<' up to '>>'.
@@ -257,7 +257,7 @@ func (r *reader) dict(deep int) (api.Value, error) {
 	v := api.Value{Kind: api.Dict}
 	r.at += len("<<")
 	for {
-		if end, err := r.ends(">>", len(v.F)); end || err != nil {
+		if end, err := r.ends(">>"); end || err != nil {
 			return v, err
 		}
 		f, err := r.field(deep + 1)
@@ -268,7 +268,10 @@ func (r *reader) dict(deep int) (api.Value, error) {
 		if twice {
 			return api.Value{}, api.ErrShape
 		}
-		v.F = slices.Insert(v.F, at, f)
+		// A name that is there already makes the dictionary no greater, so that too many is told behind it.
+		if v.F = slices.Insert(v.F, at, f); len(v.F) > api.MaxParts {
+			return api.Value{}, api.ErrMany
+		}
 	}
 }
 
